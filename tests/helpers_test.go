@@ -8,11 +8,9 @@ import (
 // unroll writes a set text's signs one behind the other, n at least.
 func unroll(s string, n int) string {
 	open := strings.Index(s, "(")
-	signs := s[:open]
-	for len(signs) < n {
-		signs += s[open+1 : len(s)-1]
-	}
-	return signs
+	tail, ring := s[:open], s[open+1:len(s)-1]
+	rounds := max(0, n-len(tail)+len(ring)-1) / len(ring)
+	return tail + strings.Repeat(ring, rounds)
 }
 
 // bits returns all texts of signs of just this many signs.
@@ -91,4 +89,23 @@ func noTexts() []string {
 		"\x00(1)", "(1\x00)", "(\xff)", "\xff(1)", "(1)\xff", "\xb1(1)", "(\uff11)", "\u0661(1)", "\uff081\uff09", "[1]", "{1}", "0,1(1)",
 		long + "(1)", "(" + long + ")", long + "(" + long + ")", strings.Repeat("10", 5000) + "(1)", "(" + strings.Repeat("10", 5000) + ")",
 	}
+}
+
+// tidyByTrying returns the text that the document calls tidy: of the shortest ring, and then of the shortest tail, of all that tell the same signs.
+func tidyByTrying(s string) string {
+	text, _ := tidyOfSigns(unroll(s, 600))
+	return text
+}
+
+// tidyOfSigns returns the tidy text that tells these signs, and true, if there is one whose parts are not too long. Signs of two rounds of any ring that may be meant should be given.
+func tidyOfSigns(signs string) (string, bool) {
+	for ring := 1; ring <= 60; ring++ {
+		for tail := 0; tail <= 60; tail++ {
+			again := signs[tail:]
+			if again[:len(again)-ring] == again[ring:] {
+				return signs[:tail] + "(" + signs[tail:tail+ring] + ")", true
+			}
+		}
+	}
+	return "", false
 }

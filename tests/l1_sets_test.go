@@ -9,20 +9,6 @@ import (
 	"loop.example/oneletter/impl"
 )
 
-// tidyByTrying returns the text that the document calls tidy: of the shortest ring, and then of the shortest tail, of all that tell the same signs.
-func tidyByTrying(s string) string {
-	signs := unroll(s, 600)
-	for ring := 1; ring <= 60; ring++ {
-		for tail := 0; tail <= 60; tail++ {
-			again := signs[tail:]
-			if again[:len(again)-ring] == again[ring:] {
-				return signs[:tail] + "(" + signs[tail:tail+ring] + ")"
-			}
-		}
-	}
-	return "none"
-}
-
 func TestP1InIsTidyTrue(t *testing.T) {
 	for _, s := range append(smallTexts(4, 4), longTexts()...) {
 		_, ok := impl.SetTidy(s)
